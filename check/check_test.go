@@ -394,7 +394,7 @@ func TestR4ArgumentsAreNotModified(t *testing.T) {
 func TestR4ElementsBeyondTheLength(t *testing.T) {
 	p := program(t, "list", "case list(l) { Nil() => l, Cons(a, b) => b }")
 	kept := program(t, "list", "case list(l) { Nil() => l, Cons(a, b) => b }")
-	p.Funs = append(p.Funs, api.Fun{Name: "bad"})[:3]
+	p.Funs = append(p.Funs, api.Fun{Name: "bad"})[:4]
 	p.Decls = append(p.Decls, api.Decl{Name: "bad"})[:4]
 	vars := append(params(), api.Param{Name: "l", Type: 99})
 	if typ, e := check.Type(p, vars[:4], nil, p.Funs[1].Body); typ != list || e != api.OK {
@@ -403,7 +403,7 @@ func TestR4ElementsBeyondTheLength(t *testing.T) {
 	if e := check.Check(p); e != api.OK {
 		t.Errorf("read: %d", e)
 	}
-	if !reflect.DeepEqual(p, kept) || vars[4].Type != 99 || p.Funs[:4][3].Name != "bad" || p.Decls[:5][4].Name != "bad" {
+	if !reflect.DeepEqual(p, kept) || vars[4].Type != 99 || p.Funs[:5][4].Name != "bad" || p.Decls[:5][4].Name != "bad" {
 		t.Error("written")
 	}
 }

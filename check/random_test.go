@@ -6,6 +6,7 @@ import (
 
 	"chiasmus/api"
 	"chiasmus/check"
+	"chiasmus/sample"
 	"chiasmus/term"
 )
 
@@ -15,12 +16,12 @@ func labels() []api.Param {
 }
 
 // made returns terms of all types, with and without a type, in the scope of the given variables and labels.
-func made(p api.Prog, seed numbers, count int, labels []api.Param) []api.Term {
-	m := maker{&seed, p}
+func made(p api.Prog, seed sample.Numbers, count int, labels []api.Param) []api.Term {
+	m := sample.NewMaker(p, &seed, 12)
 	var out []api.Term
 	for range count {
-		t := m.term(2+m.below(5), m.below(len(p.Decls)+1), params(), labels)
-		if vars, names := term.Free(t); len(names) > 0 || len(vars) > 0 || m.below(4) == 0 {
+		t := m.Term(2+m.Below(5), m.Below(len(p.Decls)+1), params(), labels)
+		if vars, names := term.Free(t); len(names) > 0 || len(vars) > 0 || m.Below(4) == 0 {
 			out = append(out, t)
 		}
 	}
@@ -110,7 +111,7 @@ func callsItself(p api.Prog) bool {
 
 func TestP4_5OnlyFreeNamesCount(t *testing.T) {
 	p := program(t, "list", "l")
-	s := numbers(4)
+	s := sample.Numbers(4)
 	for _, x := range made(p, 5, 6000, labels()) {
 		want, expected := check.Type(p, params(), labels(), x)
 		freeVars, freeLabels := term.Free(x)
@@ -118,7 +119,7 @@ func TestP4_5OnlyFreeNamesCount(t *testing.T) {
 		if typ, e := check.Type(p, fewer, others, x); typ != want || e != expected {
 			t.Fatalf("%v: %d %d without what is not free, not %d %d", x, typ, e, want, expected)
 		}
-		changed := api.Param{Name: pick(&s, []string{"x", "l", "s", "g", "k", "j", "b"}), Type: s.below(pair + 1)}
+		changed := api.Param{Name: sample.Pick(&s, []string{"x", "l", "s", "g", "k", "j", "b"}), Type: s.Below(pair + 1)}
 		if !slices.Contains(freeVars, changed.Name) {
 			fewer = append(fewer, changed)
 		}
@@ -144,10 +145,9 @@ func onlyThose(l []api.Param, names []string) []api.Param {
 // No call may panic (P1), whatever the fields of a term are.
 func TestP1NoPanic(t *testing.T) {
 	p := program(t, "list", "l")
-	s := numbers(6)
-	odd := []int{-1 << 63, -2, -1, 0, 1, 2, 3, 4, 5, 8, 12, 13, 1<<63 - 1}
+	s := sample.Numbers(6)
 	for _, x := range made(p, 7, 3000, labels()) {
-		disturb(&s, &x, odd)
+		sample.Disturb(&s, &x)
 		q := p
 		q.Funs = slices.Clone(p.Funs)
 		q.Funs[1].Body = x
@@ -156,31 +156,5 @@ func TestP1NoPanic(t *testing.T) {
 		check.Type(q, params(), labels(), x)
 		check.Type(p, params(), labels(), x)
 		check.Type(p, nil, nil, x)
-	}
-}
-
-// disturb changes one field of t or of one of its subterms.
-func disturb(s *numbers, t *api.Term, odd []int) {
-	if len(t.Args) > 0 && s.below(2) == 0 {
-		disturb(s, &t.Args[s.below(len(t.Args))], odd)
-		return
-	}
-	if len(t.Clauses) > 0 && s.below(2) == 0 {
-		disturb(s, &t.Clauses[s.below(len(t.Clauses))].Body, odd)
-		return
-	}
-	switch s.below(6) {
-	case 0:
-		t.Op = pick(s, odd)
-	case 1:
-		t.N = pick(s, odd)
-	case 2:
-		t.Type = pick(s, odd)
-	case 3:
-		t.Args = t.Args[:s.below(len(t.Args)+1)]
-	case 4:
-		t.Clauses = t.Clauses[:s.below(len(t.Clauses)+1)]
-	case 5:
-		t.Name = pick(s, []string{"", "X", "q", "l"})
 	}
 }

@@ -5,6 +5,7 @@ import (
 
 	"chiasmus/api"
 	"chiasmus/decl"
+	"chiasmus/heads"
 )
 
 // signature is what xtors and functions have in common: the types of the Args of a term that applies one, and the type of that term.
@@ -56,32 +57,18 @@ func newChecker(p api.Prog) *checker {
 }
 
 func ofFun(f api.Fun) signature {
-	g := signature{result: f.Result}
-	for _, a := range f.Params {
-		g.args = append(g.args, a.Type)
-	}
-	return g
+	return signature{args: heads.Params(f), result: f.Result}
 }
 
 // ofXtor puts the object of an observation in the place of the consumer, since it is the last of the Args.
 func ofXtor(l []api.Decl, typ, n int) signature {
 	d := l[typ-1]
-	g := signature{args: producers(d.Xtors[n]), result: typ}
+	g := signature{args: heads.Producers(d.Xtors[n]), result: typ}
 	if d.Codata {
 		g.args = append(g.args, typ)
 		g.result, _ = decl.Result(l, typ, n)
 	}
 	return g
-}
-
-func producers(x api.Xtor) []int {
-	var types []int
-	for _, a := range x.Args {
-		if !a.Co {
-			types = append(types, a.Type)
-		}
-	}
-	return types
 }
 
 func (c *checker) variable(s scope, t api.Term, parts []int) (int, bool) {
