@@ -4,6 +4,7 @@ import (
 	"strings"
 
 	"chiasmus/api"
+	"chiasmus/names"
 )
 
 func text(l []api.Decl) string {
@@ -33,7 +34,7 @@ func writeXtor(b *strings.Builder, l []api.Decl, x api.Xtor) {
 		if a.Co {
 			b.WriteString("~")
 		}
-		b.WriteString(typeName(l, a.Type))
+		b.WriteString(names.Type(l, a.Type))
 	}
 	b.WriteString(")")
 }
@@ -43,11 +44,4 @@ func separate(b *strings.Builder, i int) {
 	if i > 0 {
 		b.WriteString(", ")
 	}
-}
-
-func typeName(l []api.Decl, t int) string {
-	if t == 0 {
-		return "int"
-	}
-	return l[t-1].Name
 }

@@ -1,37 +1,32 @@
-// Package names tells which strings are names. Every layer that reads names shares it, so that all of them agree.
+// Package names tells which strings are names, and what types are called. Every layer that reads or writes names shares it, so that all of them agree.
 package names
 
-import "chiasmus/api"
+import (
+	"chiasmus/api"
+	"chiasmus/letters"
+)
 
 // Plain reports whether s is the name of a declaration, a function, a variable or a label.
 func Plain(s string) bool {
-	return s != "" && isLower(s[0]) && fits(s) && !reserved(s)
+	return s != "" && letters.IsLower(s[0]) && fits(s) && !reserved(s)
 }
 
 // Xtor reports whether s is the name of a constructor or a destructor.
 func Xtor(s string) bool {
-	return s != "" && 'A' <= s[0] && s[0] <= 'Z' && fits(s)
+	return s != "" && letters.IsUpper(s[0]) && fits(s)
 }
 
-// fits leaves the first byte to its callers, since only that byte tells the two kinds of names apart.
+// Type returns the name of the type t, which must be one of the types of l.
+func Type(l []api.Decl, t int) string {
+	if t == 0 {
+		return "int"
+	}
+	return l[t-1].Name
+}
+
+// fits leaves the kind of the first letter to its callers, since only that letter tells the two kinds of names apart.
 func fits(s string) bool {
-	if len(s) > api.MaxName {
-		return false
-	}
-	for i := 1; i < len(s); i++ {
-		if !isLower(s[i]) && !isDigit(s[i]) {
-			return false
-		}
-	}
-	return true
-}
-
-func isLower(b byte) bool {
-	return 'a' <= b && b <= 'z'
-}
-
-func isDigit(b byte) bool {
-	return '0' <= b && b <= '9'
+	return len(s) <= api.MaxName && letters.Word(s) == len(s)
 }
 
 func reserved(s string) bool {

@@ -45,3 +45,12 @@ func TestXtor(t *testing.T) {
 		}
 	}
 }
+
+func TestType(t *testing.T) {
+	l := []api.Decl{{Name: "list"}, {Name: "stream", Codata: true}}
+	for n, want := range []string{"int", "list", "stream"} {
+		if s := Type(l, n); s != want {
+			t.Errorf("%d: %q, not %q", n, s, want)
+		}
+	}
+}

@@ -107,16 +107,7 @@ func (s scope) leaf(typ int) api.Term {
 		return api.Term{Op: api.TVar, Name: Pick(s.Numbers, l).Name}
 	}
 	if typ == 0 {
-		return s.integer()
+		return api.Term{Op: api.TInt, N: integer(s.Numbers)}
 	}
 	return s.least[typ]()
-}
-
-// integer returns small numbers, so that zeros are not rare, and sometimes the largest ones.
-func (s scope) integer() api.Term {
-	n := s.Below(5) - 1
-	if s.Below(20) == 0 {
-		n = Pick(s.Numbers, []int{-1 << 63, 1<<63 - 1, 1 << 32, -1 << 31})
-	}
-	return api.Term{Op: api.TInt, N: n}
 }

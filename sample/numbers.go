@@ -14,3 +14,12 @@ func (s *Numbers) Below(n int) int {
 func Pick[T any](s *Numbers, l []T) T {
 	return l[s.Below(len(l))]
 }
+
+// integer returns small numbers, so that zeros are not rare, and sometimes the largest ones.
+func integer(s *Numbers) int {
+	n := s.Below(5) - 1
+	if s.Below(20) == 0 {
+		n = Pick(s, []int{-1 << 63, 1<<63 - 1, 1 << 32, -1 << 31})
+	}
+	return n
+}

@@ -2,10 +2,12 @@ package sample_test
 
 import (
 	"reflect"
+	"strconv"
 	"testing"
 
 	"chiasmus/api"
 	"chiasmus/check"
+	"chiasmus/core"
 	"chiasmus/sample"
 	"chiasmus/term"
 	"chiasmus/text"
@@ -115,6 +117,91 @@ func TestDisturb(t *testing.T) {
 		ends[term.Check(p)]++
 	}
 	if ends[api.OK] < 100 || ends[api.ErrProg] < 100 {
+		t.Errorf("%v", ends)
+	}
+}
+
+const coreHeads = `data knot { Tie(knot, ~list), Cut(~list, fn) }
+codata fn { Ap(list, int, ~list), No(int) }
+data list { Nil(), Cons(int, list) }
+fun main(x0 : int, x1 : int) = done(x0);
+fun to(x0 : list, a0 : fn, x1 : fn, a1 : int) = done(0);
+`
+
+func parseCore(t *testing.T) api.Core {
+	t.Helper()
+	c, e := core.Parse(coreHeads)
+	if e != api.OK {
+		t.Fatal(e)
+	}
+	return c
+}
+
+// nodeOperators counts the operators of a node.
+func nodeOperators(n api.Node, count map[int]int) {
+	count[n.Op]++
+	for _, x := range n.Args {
+		nodeOperators(x, count)
+	}
+	for _, b := range n.Branches {
+		nodeOperators(b.Body, count)
+	}
+}
+
+func TestCoreMaker(t *testing.T) {
+	s := sample.Numbers(6)
+	m := sample.NewCoreMaker(parseCore(t), &s, 0)
+	count, large := map[int]int{}, 0
+	for range 1000 {
+		c := m.Core(6)
+		for _, f := range c.Funs {
+			nodeOperators(f.Body, count)
+		}
+		if core.Check(c) != api.OK {
+			large++
+		}
+	}
+	if len(count) != api.KDone+1 || large > 10 {
+		t.Errorf("%d too large, operators %v", large, count)
+	}
+}
+
+// Parts of a program are valid where the variables of their scope are.
+func TestCoreMakerParts(t *testing.T) {
+	s := sample.Numbers(7)
+	m := sample.NewCoreMaker(parseCore(t), &s, 9)
+	l := []sample.Variable{{N: 0}, {N: 0, Arg: api.Arg{Type: 1, Co: true}}, {N: 5, Arg: api.Arg{Type: 2}}, {N: 9, Arg: api.Arg{Co: true}}}
+	used := map[string]int{}
+	for range 1000 {
+		for typ := range 4 {
+			p, c, k := m.Producer(3, typ, l), m.Consumer(3, typ, l), m.Command(3, l)
+			if p.Op > api.PMatch || c.Op < api.CVar || c.Op > api.CMatch || k.Op < api.KCut || k.Op > api.KDone {
+				t.Fatal(p.Op, c.Op, k.Op)
+			}
+			xs, as := core.Free(api.Node{Op: api.KCut, Args: []api.Node{p, c, k}})
+			for _, n := range xs {
+				used["x"+strconv.Itoa(n)]++
+			}
+			for _, n := range as {
+				used["a"+strconv.Itoa(n)]++
+			}
+		}
+	}
+	if len(used) != 4 || used["x0"] == 0 || used["x5"] == 0 || used["a0"] == 0 || used["a9"] == 0 {
+		t.Errorf("%v", used)
+	}
+}
+
+func TestDisturbNode(t *testing.T) {
+	s := sample.Numbers(8)
+	m := sample.NewCoreMaker(parseCore(t), &s, 9)
+	ends := map[api.Errno]int{}
+	for range 2000 {
+		c := m.Core(4)
+		sample.DisturbNode(&s, &c.Funs[0].Body)
+		ends[core.Check(c)]++
+	}
+	if ends[api.OK] < 100 || ends[api.ErrCore] < 100 {
 		t.Errorf("%v", ends)
 	}
 }

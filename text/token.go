@@ -2,6 +2,8 @@ package text
 
 import (
 	"strings"
+
+	"chiasmus/letters"
 )
 
 // The kinds of tokens.
@@ -35,14 +37,14 @@ func first(s string, before token) token {
 		return token{}
 	}
 	switch c := s[0]; {
-	case isLower(c):
-		return token{lower, s[:wordLength(s)]}
-	case isUpper(c):
-		return token{upper, s[:wordLength(s)]}
-	case isDigit(c):
-		return token{number, s[:numberLength(s)]}
-	case c == '-' && !endsTerm(before) && numberLength(s[1:]) > 0 && s[1] != '0':
-		return token{number, s[:1+numberLength(s[1:])]}
+	case letters.IsLower(c):
+		return token{lower, s[:letters.Word(s)]}
+	case letters.IsUpper(c):
+		return token{upper, s[:letters.Word(s)]}
+	case letters.IsDigit(c):
+		return token{number, s[:letters.Number(s)]}
+	case c == '-' && !endsTerm(before) && letters.Number(s[1:]) > 0 && s[1] != '0':
+		return token{number, s[:1+letters.Number(s[1:])]}
 	}
 	return token{sign, s[:signLength(s)]}
 }
@@ -50,23 +52,6 @@ func first(s string, before token) token {
 // endsTerm tells the two uses of a minus apart: it is an operator only behind a term. (Behind a brace it may be either.)
 func endsTerm(t token) bool {
 	return t.kind == number || t.kind == lower || t.kind == upper || t.text == ")"
-}
-
-func wordLength(s string) int {
-	n := 1
-	for n < len(s) && (isLower(s[n]) || isDigit(s[n])) {
-		n++
-	}
-	return n
-}
-
-// numberLength is 1 for every number that begins with a zero: there are no leading zeros.
-func numberLength(s string) int {
-	n := 0
-	for n < len(s) && isDigit(s[n]) && (n == 0 || s[0] != '0') {
-		n++
-	}
-	return n
 }
 
 func signLength(s string) int {
@@ -77,16 +62,4 @@ func signLength(s string) int {
 		malformed()
 	}
 	return 1
-}
-
-func isLower(c byte) bool {
-	return 'a' <= c && c <= 'z'
-}
-
-func isUpper(c byte) bool {
-	return 'A' <= c && c <= 'Z'
-}
-
-func isDigit(c byte) bool {
-	return '0' <= c && c <= '9'
 }

@@ -6,125 +6,102 @@ import (
 
 	"chiasmus/api"
 	"chiasmus/decl"
+	"chiasmus/pen"
 	"chiasmus/prim"
 )
 
 // writer writes the string of a valid program.
 type writer struct {
-	prog api.Prog
-	out  strings.Builder
+	funs []api.Fun
+	pen.Pen
 }
 
 func text(p api.Prog) string {
-	w := writer{prog: p}
+	w := writer{funs: p.Funs, Pen: pen.Pen{Decls: p.Decls}}
 	decls, _ := decl.String(p.Decls)
-	w.put(decls)
+	w.Put(decls)
 	for _, f := range p.Funs {
 		w.fun(f)
 	}
-	return w.out.String()
-}
-
-func (w *writer) put(l ...string) {
-	for _, s := range l {
-		w.out.WriteString(s)
-	}
-}
-
-// separate writes what stands before item i of a list.
-func (w *writer) separate(i int) {
-	if i > 0 {
-		w.put(", ")
-	}
+	return w.String()
 }
 
 func (w *writer) fun(f api.Fun) {
-	w.put("fun ", f.Name, "(")
+	w.Put("fun ", f.Name, "(")
 	for i, a := range f.Params {
-		w.separate(i)
-		w.put(a.Name, " : ", w.typ(a.Type))
+		w.Separate(i)
+		w.Put(a.Name, " : ", w.Type(a.Type))
 	}
-	w.put(") : ", w.typ(f.Result), " = ")
+	w.Put(") : ", w.Type(f.Result), " = ")
 	w.term(f.Body)
-	w.put(";\n")
-}
-
-func (w *writer) typ(t int) string {
-	if t == 0 {
-		return "int"
-	}
-	return w.prog.Decls[t-1].Name
-}
-
-func (w *writer) xtor(t, n int) string {
-	return w.prog.Decls[t-1].Xtors[n].Name
+	w.Put(";\n")
 }
 
 func (w *writer) term(t api.Term) {
 	switch t.Op {
 	case api.TVar:
-		w.put(t.Name)
+		w.Put(t.Name)
 	case api.TInt:
-		w.put(strconv.Itoa(t.N))
+		w.Put(strconv.Itoa(t.N))
 	case api.TPrim:
-		w.put("(")
+		w.Put("(")
 		w.term(t.Args[0])
-		w.put(" ", prim.Sign(t.N), " ")
+		w.Put(" ", prim.Sign(t.N), " ")
 		w.term(t.Args[1])
-		w.put(")")
+		w.Put(")")
 	case api.TIfz:
 		w.apply("ifz", t.Args)
 	case api.TCon:
-		w.apply(w.xtor(t.Type, t.N), t.Args)
+		w.apply(w.Xtor(t.Type, t.N), t.Args)
 	case api.TCase:
-		w.put("case ", w.typ(t.Type))
+		w.Put("case ", w.Type(t.Type))
 		w.apply("", t.Args)
 		w.clauses(t)
 	case api.TDtor:
 		object := len(t.Args) - 1
 		w.term(t.Args[object])
-		w.put(".")
-		w.apply(w.xtor(t.Type, t.N), t.Args[:object])
+		w.Put(".")
+		w.apply(w.Xtor(t.Type, t.N), t.Args[:object])
 	case api.TCocase:
-		w.put("cocase ", w.typ(t.Type))
+		w.Put("cocase ", w.Type(t.Type))
 		w.clauses(t)
 	case api.TLet:
-		w.put("let(", t.Name, " : ", w.typ(t.Type), " = ")
+		w.Put("let(", t.Name, " : ", w.Type(t.Type), " = ")
 		w.term(t.Args[0])
-		w.put(", ")
+		w.Put(", ")
 		w.term(t.Args[1])
-		w.put(")")
+		w.Put(")")
 	case api.TCall:
-		w.apply(w.prog.Funs[t.N].Name, t.Args)
+		w.apply(w.funs[t.N].Name, t.Args)
 	case api.TEmit:
 		w.apply("emit", t.Args)
 	case api.TLabel:
-		w.put("label(", t.Name, " : ", w.typ(t.Type), ", ")
+		w.Put("label(", t.Name, " : ", w.Type(t.Type), ", ")
 		w.term(t.Args[0])
-		w.put(")")
+		w.Put(")")
 	case api.TGoto:
-		w.put("goto(", t.Name, ", ")
+		w.Put("goto(", t.Name, ", ")
 		w.term(t.Args[0])
-		w.put(" : ", w.typ(t.Type), ")")
+		w.Put(" : ", w.Type(t.Type), ")")
 	}
 }
 
 // apply writes what has the form of a call.
 func (w *writer) apply(head string, args []api.Term) {
-	w.put(head, "(")
+	w.Put(head, "(")
 	for i, a := range args {
-		w.separate(i)
+		w.Separate(i)
 		w.term(a)
 	}
-	w.put(")")
+	w.Put(")")
 }
 
 func (w *writer) clauses(t api.Term) {
-	w.put(" { ")
+	w.Put(" { ")
 	for i, c := range t.Clauses {
-		w.separate(i)
-		w.put(w.xtor(t.Type, i), "(", strings.Join(c.Names, ", "), ") => ")
+		w.Separate(i)
+		w.Put(w.Xtor(t.Type, i), "(", strings.Join(c.Names, ", "), ") => ")
 		w.term(c.Body)
 	}
-	w.put(" }")
+	w.Put(" }")
 }

@@ -1,0 +1,47 @@
+package core
+
+import (
+	"slices"
+
+	"chiasmus/api"
+	"chiasmus/decl"
+)
+
+// standard returns the node among those that are equivalent to n that has the numbers of a renaming: they depend only on the free variables and on where variables occur.
+func standard(n api.Node) api.Node {
+	taken := map[variable]bool{}
+	for x := range occurrences(n) {
+		taken[x] = true
+	}
+	return renamed(n, nil, taken)
+}
+
+// identical compares what is not ignored, including the numbers of bound variables. It takes leaves to have no children: a renaming leaves those out.
+func identical(a, b api.Node) bool {
+	s := shapeOf(a.Op)
+	if a.Op != b.Op || s.n && a.N != b.N || s.typ && a.Type != b.Type {
+		return false
+	}
+	return slices.EqualFunc(a.Args, b.Args, identical) && slices.EqualFunc(a.Branches, b.Branches, identicalBranches)
+}
+
+func identicalBranches(a, b api.Branch) bool {
+	return slices.Equal(boundIn(a), boundIn(b)) && identical(a.Body, b.Body)
+}
+
+// sameCore takes both programs to be valid.
+func sameCore(a, b api.Core) bool {
+	// The names in them are distinct, so the strings of different declarations differ.
+	s, _ := decl.String(a.Decls)
+	t, _ := decl.String(b.Decls)
+	return s == t && slices.EqualFunc(a.Funs, b.Funs, sameFun)
+}
+
+func sameFun(f, g api.CoreFun) bool {
+	return f.Name == g.Name && slices.Equal(f.Params, g.Params) && Same(closed(f), closed(g))
+}
+
+// closed returns a node that binds the variables of the parameters of f in its body.
+func closed(f api.CoreFun) api.Node {
+	return api.Node{Op: api.CMatch, Branches: []api.Branch{asBranch(f)}}
+}
