@@ -6,6 +6,7 @@ import (
 
 	"chiasmus/api"
 	"chiasmus/letters"
+	"chiasmus/node"
 	"chiasmus/prim"
 )
 
@@ -190,7 +191,7 @@ func (p *parser) fun(name string) func() api.CoreFun {
 	return func() api.CoreFun {
 		f := api.CoreFun{Name: name, Body: body()}
 		for i, x := range vars {
-			f.Params = append(f.Params, api.Arg{Type: find(p.types, types[i]), Co: x.sort == consumer})
+			f.Params = append(f.Params, api.Arg{Type: find(p.types, types[i]), Co: x.sort == node.Consumer})
 			f.Vars = append(f.Vars, integer(x.digits))
 		}
 		return f

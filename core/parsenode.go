@@ -3,6 +3,7 @@ package core
 import (
 	"chiasmus/api"
 	"chiasmus/letters"
+	"chiasmus/node"
 )
 
 // maker makes a node that was read.
@@ -10,15 +11,15 @@ type maker func() api.Node
 
 // readVariable is a variable as it was read: its number may be too large to be an integer.
 type readVariable struct {
-	sort   sort
+	sort   node.Sort
 	digits string
 }
 
 func (p *parser) variable() readVariable {
-	s := consumer
+	s := node.Consumer
 	if !p.try("a") {
 		p.skip("x")
-		s = producer
+		s = node.Producer
 	}
 	return readVariable{s, p.number()}
 }
@@ -29,9 +30,9 @@ func (p *parser) node() maker {
 	case p.begins("x") || p.begins("a"):
 		return p.occurrence()
 	case p.try("mu("):
-		return p.mu(api.PMu, consumer)
+		return p.mu(api.PMu, node.Consumer)
 	case p.try("comu("):
-		return p.mu(api.CMu, producer)
+		return p.mu(api.CMu, node.Producer)
 	case p.try("match "):
 		return p.match()
 	case p.rest == "":
@@ -47,7 +48,7 @@ func (p *parser) node() maker {
 func (p *parser) occurrence() maker {
 	x := p.variable()
 	op := api.PVar
-	if x.sort == consumer {
+	if x.sort == node.Consumer {
 		op = api.CVar
 	}
 	return func() api.Node { return api.Node{Op: op, N: integer(x.digits)} }
@@ -66,7 +67,7 @@ func (p *parser) integer() maker {
 }
 
 // mu takes the rest of a mu or a comu, which binds a variable of this sort.
-func (p *parser) mu(op int, s sort) maker {
+func (p *parser) mu(op int, s node.Sort) maker {
 	x := p.variable()
 	if x.sort != s {
 		malformed()
@@ -134,7 +135,7 @@ func (p *parser) branch() func() api.Branch {
 		b := api.Branch{Body: k()}
 		for _, x := range vars {
 			b.Vars = append(b.Vars, integer(x.digits))
-			b.Co = append(b.Co, x.sort == consumer)
+			b.Co = append(b.Co, x.sort == node.Consumer)
 		}
 		return b
 	}

@@ -5,11 +5,12 @@ import (
 
 	"chiasmus/api"
 	"chiasmus/decl"
+	"chiasmus/node"
 )
 
 // standard returns the node among those that are equivalent to n that has the numbers of a renaming: they depend only on the free variables and on where variables occur.
 func standard(n api.Node) api.Node {
-	taken := map[variable]bool{}
+	taken := map[node.Variable]bool{}
 	for x := range occurrences(n) {
 		taken[x] = true
 	}
@@ -18,15 +19,15 @@ func standard(n api.Node) api.Node {
 
 // identical compares what is not ignored, including the numbers of bound variables. It takes leaves to have no children: a renaming leaves those out.
 func identical(a, b api.Node) bool {
-	s := shapeOf(a.Op)
-	if a.Op != b.Op || s.n && a.N != b.N || s.typ && a.Type != b.Type {
+	n, typ := node.Uses(a.Op)
+	if a.Op != b.Op || n && a.N != b.N || typ && a.Type != b.Type {
 		return false
 	}
 	return slices.EqualFunc(a.Args, b.Args, identical) && slices.EqualFunc(a.Branches, b.Branches, identicalBranches)
 }
 
 func identicalBranches(a, b api.Branch) bool {
-	return slices.Equal(boundIn(a), boundIn(b)) && identical(a.Body, b.Body)
+	return slices.Equal(node.BoundIn(a), node.BoundIn(b)) && identical(a.Body, b.Body)
 }
 
 // sameCore takes both programs to be valid.
@@ -43,5 +44,5 @@ func sameFun(f, g api.CoreFun) bool {
 
 // closed returns a node that binds the variables of the parameters of f in its body.
 func closed(f api.CoreFun) api.Node {
-	return api.Node{Op: api.CMatch, Branches: []api.Branch{asBranch(f)}}
+	return api.Node{Op: api.CMatch, Branches: []api.Branch{node.AsBranch(f)}}
 }

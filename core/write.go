@@ -5,6 +5,7 @@ import (
 
 	"chiasmus/api"
 	"chiasmus/decl"
+	"chiasmus/node"
 	"chiasmus/pen"
 	"chiasmus/prim"
 )
@@ -27,27 +28,27 @@ func text(c api.Core) string {
 
 func (w *writer) fun(f api.CoreFun) {
 	w.Put("fun ", f.Name, "(")
-	for i, x := range boundIn(asBranch(f)) {
+	for i, x := range node.BoundIn(node.AsBranch(f)) {
 		w.Separate(i)
-		w.Put(x.text(), " : ", w.Type(f.Params[i].Type))
+		w.Put(variable(x), " : ", w.Type(f.Params[i].Type))
 	}
 	w.Put(") = ")
 	w.node(f.Body)
 	w.Put(";\n")
 }
 
-func (x variable) text() string {
-	if x.sort == consumer {
-		return "a" + strconv.Itoa(x.n)
+func variable(x node.Variable) string {
+	if x.Sort == node.Consumer {
+		return "a" + strconv.Itoa(x.N)
 	}
-	return "x" + strconv.Itoa(x.n)
+	return "x" + strconv.Itoa(x.N)
 }
 
 func (w *writer) node(n api.Node) {
 	switch n.Op {
 	case api.PVar, api.CVar:
-		x, _ := occurrence(n)
-		w.Put(x.text())
+		x, _ := node.Occurrence(n)
+		w.Put(variable(x))
 	case api.PInt:
 		w.Put(strconv.Itoa(n.N))
 	case api.PXtor, api.CXtor:
@@ -84,7 +85,7 @@ func (w *writer) apply(head, first string, args []api.Node) {
 }
 
 func (w *writer) mu(head string, n api.Node) {
-	w.apply(head, boundInArgs(n)[0].text()+" : "+w.Type(n.Type)+", ", n.Args)
+	w.apply(head, variable(node.BoundInArgs(n)[0])+" : "+w.Type(n.Type)+", ", n.Args)
 }
 
 func (w *writer) match(n api.Node) {
@@ -92,9 +93,9 @@ func (w *writer) match(n api.Node) {
 	for i, b := range n.Branches {
 		w.Separate(i)
 		w.Put(w.Xtor(n.Type, i), "(")
-		for j, x := range boundIn(b) {
+		for j, x := range node.BoundIn(b) {
 			w.Separate(j)
-			w.Put(x.text())
+			w.Put(variable(x))
 		}
 		w.Put(") => ")
 		w.node(b.Body)

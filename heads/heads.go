@@ -22,3 +22,23 @@ func Params(f api.Fun) []int {
 	}
 	return types
 }
+
+// Args returns what the xtor or the function that n applies is applied to. That must exist in c; other nodes apply nothing.
+func Args(c api.Core, n api.Node) []api.Arg {
+	switch n.Op {
+	case api.PXtor, api.CXtor:
+		return c.Decls[n.Type-1].Xtors[n.N].Args
+	case api.KCall:
+		return c.Funs[n.N].Params
+	}
+	return nil
+}
+
+// Types returns the types of l, in order.
+func Types(l []api.Arg) []int {
+	var types []int
+	for _, a := range l {
+		types = append(types, a.Type)
+	}
+	return types
+}
