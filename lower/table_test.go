@@ -75,6 +75,11 @@ func TestP8_1Main(t *testing.T) {
 				"fun main0(x0 : int, a9 : int) = cut(int, mu(a0 : int, call main0(mu(a1 : int, prim(-, x0, 1, a1)), a0)), a9);\n"},
 		{"called by another", "fun main() : int = 1; fun g() : int = main();",
 			"fun main() = cut(int, 1, comu(x1 : int, done(x1)));\nfun g(a0 : int) = cut(int, mu(a1 : int, call main0(a1)), a0);\nfun main0(a0 : int) = cut(int, 1, a0);\n"},
+		{"called, with another name", "fun abcdefghij(n : int) : int = abcdefghij((n - 1));",
+			"fun abcdefghij(x0 : int) = cut(int, mu(a0 : int, call main0(mu(a1 : int, prim(-, x0, 1, a1)), a0)), comu(x1 : int, done(x1)));\n" +
+				"fun main0(x0 : int, a9 : int) = cut(int, mu(a0 : int, call main0(mu(a1 : int, prim(-, x0, 1, a1)), a0)), a9);\n"},
+		{"called by another, with another name", "fun go() : int = main(); fun main() : int = go();",
+			"fun go() = cut(int, mu(a0 : int, call main(a0)), comu(x0 : int, done(x0)));\nfun main(a0 : int) = cut(int, mu(a1 : int, call main0(a1)), a0);\nfun main0(a0 : int) = cut(int, mu(a1 : int, call main(a1)), a0);\n"},
 		{"with labels", "fun main() : int = label(k : int, goto(k, main() : int));",
 			"fun main() = cut(int, mu(a0 : int, cut(int, mu(a1 : int, cut(int, mu(a2 : int, call main0(a2)), a0)), a0)), comu(x0 : int, done(x0)));\n" +
 				"fun main0(a5 : int) = cut(int, mu(a0 : int, cut(int, mu(a1 : int, cut(int, mu(a2 : int, call main0(a2)), a0)), a0)), a5);\n"},
@@ -115,12 +120,19 @@ func TestP8_1NamesOfMain(t *testing.T) {
 		{[]string{"main", "main00", "main01"}, "main0"},
 		{[]string{"main", "main2", "main0", "main1"}, "main3"},
 		{[]string{"main", "main0", "main1", "main2", "main3", "main4", "main5", "main6", "main7", "main8", "main9"}, "main10"},
-		{[]string{"go"}, "go0"},
-		{[]string{"go", "main", "main0"}, "go0"},
-		{[]string{"go", "go0", "main"}, "go1"},
-		{[]string{"abcdefghi"}, "abcdefghi0"},
-		{[]string{"a", "a0", "a1", "a2"}, "a3"},
-		{[]string{"a0", "a00", "a1"}, "a01"},
+		{[]string{"go"}, "main0"},
+		{[]string{"go", "go0"}, "main0"},
+		{[]string{"go", "main"}, "main0"},
+		{[]string{"go", "main", "main0"}, "main1"},
+		{[]string{"main0"}, "main1"},
+		{[]string{"main1"}, "main0"},
+		{[]string{"main0", "main", "main1"}, "main2"},
+		{[]string{"main00"}, "main0"},
+		{[]string{"mainmain"}, "main0"},
+		{[]string{"abcdefghi"}, "main0"},
+		{[]string{"abcdefghij"}, "main0"},
+		{[]string{"abcdefghij", "main0"}, "main1"},
+		{[]string{"main0", "main1", "main2", "main3", "main4", "main5", "main6", "main7", "main8", "main9", "main10"}, "main11"},
 	} {
 		got := lowered(t, named(true, c.names...))
 		if !slices.Equal(namesOf(got), append(slices.Clone(c.names), c.extra)) {
