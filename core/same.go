@@ -39,10 +39,5 @@ func sameCore(a, b api.Core) bool {
 }
 
 func sameFun(f, g api.CoreFun) bool {
-	return f.Name == g.Name && slices.Equal(f.Params, g.Params) && Same(closed(f), closed(g))
-}
-
-// closed returns a node that binds the variables of the parameters of f in its body.
-func closed(f api.CoreFun) api.Node {
-	return api.Node{Op: api.CMatch, Branches: []api.Branch{node.AsBranch(f)}}
+	return f.Name == g.Name && slices.Equal(f.Params, g.Params) && Same(node.Closed(f), node.Closed(g))
 }

@@ -38,19 +38,13 @@ func untaken(taken map[node.Variable]bool) func(s node.Sort, i int) int {
 }
 
 func (r *renaming) node(f node.Folded[api.Node]) api.Node {
-	out := api.Node{Op: f.Op, N: f.N, Type: f.Type, Args: f.FoldedArgs}
+	out := node.Rebuilt(f, r.numbers)
 	if x, ok := node.Occurrence(f.Node); ok {
 		if f.By != nil {
 			out.N = r.use(f.By)
 		} else if p, ok := r.by[x]; ok {
 			return copied(p)
 		}
-	}
-	if len(f.Own) > 0 {
-		out.N = r.numbers(f.Own)[0]
-	}
-	for i, b := range f.FoldedBranches {
-		out.Branches = append(out.Branches, api.Branch{Vars: r.numbers(b.Own), Co: slices.Clone(f.Branches[i].Co), Body: b.Body})
 	}
 	return out
 }

@@ -83,7 +83,7 @@ func (l *translator) object(s scope, t api.Term, typ int) api.Node {
 	for n, c := range t.Clauses {
 		result, _ := decl.Result(l.prog.Decls, t.Type, n)
 		inner, b := l.clause(s, c)
-		a := l.fresh(node.Consumer)
+		a := l.Fresh(node.Consumer)
 		b.Vars, b.Co = append(b.Vars, a.N), append(b.Co, true)
 		b.Body = l.pass(inner, c.Body, result, a.Node())
 		match.Branches = append(match.Branches, b)
@@ -94,7 +94,7 @@ func (l *translator) object(s scope, t api.Term, typ int) api.Node {
 func (l *translator) let(s scope, t api.Term, typ int) api.Node {
 	return l.mu(typ, func(a api.Node) api.Node {
 		bound := l.term(s, t.Args[0], t.Type)
-		x := l.fresh(node.Producer)
+		x := l.Fresh(node.Producer)
 		inner := s.bind([]string{t.Name}, []node.Variable{x})
 		return node.Cut(t.Type, bound, node.Binding(x, t.Type, l.pass(inner, t.Args[1], typ, a)))
 	})
@@ -120,7 +120,7 @@ func (l *translator) emit(s scope, t api.Term, typ int) api.Node {
 }
 
 func (l *translator) label(s scope, t api.Term, typ int) api.Node {
-	a := l.fresh(node.Consumer)
+	a := l.Fresh(node.Consumer)
 	inner := s.mark(t.Name, label{a, t.Type})
 	return node.Binding(a, t.Type, l.pass(inner, t.Args[0], t.Type, a.Node()))
 }

@@ -6,17 +6,6 @@ import (
 	"chiasmus/node"
 )
 
-// counter hands out variables. No two of the same sort have the same number, so none of them hides another one.
-type counter struct {
-	used [2]int
-}
-
-func (c *counter) fresh(s node.Sort) node.Variable {
-	x := node.Variable{Sort: s, N: c.used[s]}
-	c.used[s]++
-	return x
-}
-
 // label is the consumer variable for a label, and its type.
 type label struct {
 	node.Variable

@@ -8,7 +8,7 @@ import (
 
 // translator translates one function of a well-typed program.
 type translator struct {
-	counter
+	node.Counter
 	prog  api.Prog
 	rules map[int]rule
 }
@@ -23,18 +23,18 @@ func (l *translator) fun(f api.Fun, main bool) api.CoreFun {
 	var names []string
 	var xs []node.Variable
 	for _, a := range f.Params {
-		x := l.fresh(node.Producer)
+		x := l.Fresh(node.Producer)
 		names, xs, out.Vars = append(names, a.Name), append(xs, x), append(out.Vars, x.N)
 	}
 	s := scope{}.bind(names, xs)
 	if main {
 		body := l.term(s, f.Body, f.Result)
-		x := l.fresh(node.Producer)
+		x := l.Fresh(node.Producer)
 		done := api.Node{Op: api.KDone, Args: []api.Node{x.Node()}}
 		out.Body = node.Cut(f.Result, body, node.Binding(x, f.Result, done))
 		return out
 	}
-	a := l.fresh(node.Consumer)
+	a := l.Fresh(node.Consumer)
 	out.Vars = append(out.Vars, a.N)
 	out.Body = l.pass(s, f.Body, f.Result, a.Node())
 	return out
@@ -61,7 +61,7 @@ func (l *translator) pass(s scope, t api.Term, typ int, a api.Node) api.Node {
 
 // mu returns a producer that binds a new variable in a command, which is made with it.
 func (l *translator) mu(typ int, command func(a api.Node) api.Node) api.Node {
-	a := l.fresh(node.Consumer)
+	a := l.Fresh(node.Consumer)
 	return node.Binding(a, typ, command(a.Node()))
 }
 
@@ -70,7 +70,7 @@ func (l *translator) clause(s scope, c api.Clause) (scope, api.Branch) {
 	var xs []node.Variable
 	var b api.Branch
 	for range c.Names {
-		x := l.fresh(node.Producer)
+		x := l.Fresh(node.Producer)
 		xs, b.Vars, b.Co = append(xs, x), append(b.Vars, x.N), append(b.Co, false)
 	}
 	return s.bind(c.Names, xs), b

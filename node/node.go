@@ -103,6 +103,11 @@ func AsBranch(f api.CoreFun) api.Branch {
 	return b
 }
 
+// Closed returns a node that binds the variables of the parameters of f in its body: its only branch.
+func Closed(f api.CoreFun) api.Node {
+	return api.Node{Op: api.CMatch, Branches: []api.Branch{AsBranch(f)}}
+}
+
 func sortOf(co bool) Sort {
 	if co {
 		return Consumer

@@ -51,6 +51,13 @@ func TestBound(t *testing.T) {
 	if l := BoundIn(f); !slices.Equal(l, []Variable{{Producer, 7}, {Consumer, 8}}) || f.Body.N != 3 {
 		t.Errorf("function: %v", l)
 	}
+	g := api.CoreFun{Params: []api.Arg{{Co: true}, {}}, Vars: []int{7, 8}, Body: cut(x(8), a(7))}
+	Fold(Scope{}, Closed(g), func(f Folded[struct{}]) (none struct{}) {
+		if _, ok := Occurrence(f.Node); ok && f.By == nil {
+			t.Errorf("closed: %v is free", f.Node)
+		}
+		return none
+	})
 	for op, want := range map[int][]Variable{api.PMu: {{Consumer, 3}}, api.CMu: {{Producer, 3}}, api.PVar: nil, api.PMatch: nil, 99: nil} {
 		if l := BoundInArgs(api.Node{Op: op, N: 3}); !slices.Equal(l, want) {
 			t.Errorf("%d: %v", op, l)
