@@ -10,11 +10,11 @@ import (
 // focuser focuses the body of one function. It gives new numbers to all variables in it, so that those for the arguments that it names are not in use already.
 type focuser struct {
 	node.Counter
-	polarities
+	node.Polarities
 }
 
-func newFocuser(p polarities) *focuser {
-	return &focuser{polarities: p}
+func newFocuser(p node.Polarities) *focuser {
+	return &focuser{Polarities: p}
 }
 
 func (f *focuser) fun(g api.CoreFun) api.CoreFun {
@@ -63,7 +63,7 @@ func (f *focuser) named(rest func(values []api.Node) api.Node, args ...api.Node)
 
 // value names what is serious in an argument, or the argument itself.
 func (f *focuser) value(n api.Node, rest func(value api.Node) api.Node) api.Node {
-	if !f.runs(n) {
+	if !f.Runs(n) {
 		return f.inside(n, rest)
 	}
 	if n.Op == api.PMu {

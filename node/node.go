@@ -1,4 +1,4 @@
-// Package node is about the nodes of the core language: of which sort they are, where their variables are bound, and which of them are valid. Every layer that looks into nodes shares it, so that all of them agree.
+// Package node is about the nodes of the core language: of which sort they are, where their variables are bound, which of them are valid, and which are serious. Every layer that looks into nodes shares it, so that all of them agree.
 package node
 
 import "chiasmus/api"
